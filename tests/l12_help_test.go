@@ -116,6 +116,11 @@ func thrownHost(seed int) impl.Host {
 			h = bring(h, p, d.roll(few), false)
 		}
 	}
+	return withRights(h, d)
+}
+
+// withRights is the host with thrown shades, and what may be written.
+func withRights(h impl.Host, d *dice) impl.Host {
 	for _, p := range hostPages(h) {
 		m := &h.Guests[p.guest].Maps[p.page]
 		m.Write = m.In && len(inFrame(h, m.Frame)) == 1 && d.coin()
