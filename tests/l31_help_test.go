@@ -37,17 +37,15 @@ func formOf(word string) (form, bool) {
 	return form{}, false
 }
 
-// wordsOf are what stands in a line beside blanks.
+// wordsOf are what stands between blanks, ahead of the first, and behind the last one, were it nothing.
 func wordsOf(line string) []string {
-	var words []string
-	for at := 0; at < len(line); at++ {
+	words := []string{""}
+	for at := range len(line) {
 		if line[at] == ' ' {
-			continue
-		}
-		if at == 0 || line[at-1] == ' ' {
 			words = append(words, "")
+		} else {
+			words[len(words)-1] += line[at : at+1]
 		}
-		words[len(words)-1] += line[at : at+1]
 	}
 	return words
 }
@@ -75,9 +73,6 @@ func numberText(words []string, at int) int {
 // saidAct is the act of a line; false, if it says none.
 func saidAct(line string) (impl.Act, bool) {
 	words := wordsOf(line)
-	if len(words) == 0 {
-		return impl.Act{}, false
-	}
 	f, ok := formOf(words[0])
 	a := impl.Act{Kind: f.kind}
 	places := []*int{&a.Guest, &a.Page, &a.Off, &a.Word}
@@ -278,9 +273,9 @@ func (d *dice) looseLine() string {
 	for range f.numbers + d.roll(3) - d.roll(2) {
 		words = append(words, d.looseNumber())
 	}
-	line := strings.Repeat(" ", d.roll(2))
+	line := strings.Repeat(" ", d.roll(16)/15)
 	for _, word := range words {
-		line += word + strings.Repeat(" ", 1+d.roll(5)/4)
+		line += word + strings.Repeat(" ", 1+d.roll(12)/11)
 	}
 	if d.coin() {
 		line = strings.TrimRight(line, " ")

@@ -5,6 +5,8 @@ import (
 	"slices"
 	"strings"
 	"testing"
+
+	"loop.example/casket/impl"
 )
 
 // ahead are lines behind which each plain line of plainLines comes to something, whichever of them is first.
@@ -84,20 +86,56 @@ func TestPlainLinesComeToSomething(t *testing.T) {
 	}
 }
 
-func TestWordsAreCutAtBlanks(t *testing.T) {
+// spaced is a line with so many blanks more ahead of its word at that place.
+func spaced(line string, at, more int) string {
+	words := wordsOf(line)
+	words[at] = strings.Repeat(" ", more) + words[at]
+	return strings.Join(words, " ")
+}
+
+func TestABlankTooManyAheadOfANumber(t *testing.T) {
 	for _, p := range plainLines() {
 		words := wordsOf(p.line)
-		for _, line := range []string{
-			" " + p.line,
-			p.line + " ",
-			"  " + p.line + "   ",
-			strings.Join(words, "  "),
-			strings.Join(words, "     "),
-			"   " + strings.Join(words, "   ") + "   ",
-			strings.Repeat(" ", 99) + p.line + strings.Repeat(" ", 99),
-		} {
-			wantLine(t, line, p.told, p.line)
+		for at := 1; at < len(words); at++ {
+			var lines []string
+			for _, more := range []int{1, 2, 3, 4, 5, 60, 99} {
+				line := spaced(p.line, at, more)
+				lines = append(lines, line, line+" ", line+"  ", line+" 0 0 0 0")
+			}
+			for then := at + 1; then < len(words); then++ {
+				lines = append(lines, spaced(spaced(p.line, then, 1), at, 1))
+			}
+			wantStays(t, "bad", lines...)
 		}
+	}
+}
+
+func TestABlankAheadOfTheFirstWord(t *testing.T) {
+	for _, p := range plainLines() {
+		var lines []string
+		for _, more := range []int{1, 2, 3, 4, 5, 60, 99} {
+			line := spaced(p.line, 0, more)
+			lines = append(lines, line, line+" ", strings.ReplaceAll(line, " ", "  "))
+		}
+		wantStays(t, "what", lines...)
+	}
+}
+
+func TestBlanksBehindTheLastWord(t *testing.T) {
+	for _, p := range plainLines() {
+		for _, more := range []int{1, 2, 3, 60, 99} {
+			wantLine(t, p.line+strings.Repeat(" ", more), p.told, p.line)
+		}
+	}
+}
+
+func TestAnEmptyWordTakesItsPlace(t *testing.T) {
+	// With the empty word left out each of these lines would be whole, of other numbers.
+	wantStays(t, "bad", "read  0 2 1", "read 0  2 1", "read 0 2  1", "write 0  0 2 1", "readin  1 0 1", "writein 1 0  1 7", "forget  1", "out  1 2", "out 1  2", "move  3")
+	wantTalk(t, 1, talk{{"write 0 3 3  3", "bad"}, {"read 0 3 3", "0"}, {"write 0 3 3 4 ", "0"}, {"write 0 3  3 5", "bad"}, {"read 0 3 3", "4"}, {" read 0 3 3", "what"}, {"read  0 0 0", "bad"}, {"read 0 0 ", "bad"}})
+	mems := wantTalk(t, 2, talk{{"write 1 3 3  3", "bad"}, {"write 1 363 63", "bad"}, {"write 1 3 3 63", "0"}})
+	if !sameMem(mems[0], evenMem(impl.PageMax, 0)) || !sameMem(mems[1], changedMem(evenMem(impl.PageMax, 0), place{3, 3}, 63)) {
+		t.Errorf("guests have %v", mems)
 	}
 }
 
@@ -223,7 +261,7 @@ func TestNumbersThatAreNone(t *testing.T) {
 		for at := 1; at < len(words); at++ {
 			var lines []string
 			for _, number := range noNumbers() {
-				lines = append(lines, withNumber(p.line, at, number), " "+withNumber(p.line, at, number)+"  0 0 0 0")
+				lines = append(lines, withNumber(p.line, at, number), withNumber(p.line, at, number)+"  0 0 0 0")
 			}
 			for b := range 256 {
 				if b == ' ' || b == '\n' || b >= '0' && b <= '9' {
@@ -244,9 +282,9 @@ func TestNumbersThatAreMissing(t *testing.T) {
 		words := wordsOf(p.line)
 		for at := 1; at < len(words); at++ {
 			short := strings.Join(words[:at], " ")
-			wantStays(t, "bad", short, short+" ", short+"   ", " "+short)
-			// Left out, with the blanks of it: what is behind comes one place ahead, and the last one is missing.
-			wantStays(t, "bad", withNumber(p.line, at, ""))
+			wantStays(t, "bad", short, short+" ", short+"  ", short+"   ")
+			// Left out, with both blanks of it, or with one: what is behind comes one place ahead then, and the last one is missing.
+			wantStays(t, "bad", withNumber(p.line, at, ""), strings.Join(slices.Delete(slices.Clone(words), at, at+1), " "))
 		}
 	}
 }
